@@ -124,7 +124,7 @@ func ParseInt(s string) (int, bool) {
 	if len(digits) < len(s) {
 		n = -n
 	}
-	// No digits, zeros in front and -0 are digits too, but not what FormatInt writes.
+	// An empty text, zeros in front and -0 get this far, but FormatInt never writes them.
 	if FormatInt(n) != s {
 		return 0, false
 	}
