@@ -265,6 +265,28 @@ func TestDivisionThatGrows(t *testing.T) {
 	}
 }
 
+// Here a coefficient of the quotient is too great, though the last ones and the remainder are not.
+func TestQuotientThatIsTooGreatForAWhile(t *testing.T) {
+	for seed, b := range map[int][]int{549: {1, 1, 0, -1, -1, 1, 1, 1}, 294: {-1, -1, -1, -1, 0, -1, 0, 1, 1, 1}, 137: {0, 1, 1, 1, 1, 0, 0, 1, 1, 1}} {
+		a := mixed(seed, 61, 100000)
+		rest := slices.Clone(a)
+		greatest := 0
+		for top := 60; top >= len(b)-1; top-- {
+			factor := rest[top]
+			greatest = max(greatest, factor, -factor)
+			for i, c := range b {
+				rest[top-len(b)+1+i] -= factor * c
+			}
+		}
+		if last := max(slices.Max(rest), -slices.Min(rest)); greatest <= 1000000000 || last > 1000000000 {
+			t.Fatalf("up to %d in the quotient and %d in the remainder", greatest, last)
+		}
+		if q, r, ok := impl.DividePolynomials(a, b); len(q) != 0 || len(r) != 0 || ok {
+			t.Errorf("DividePolynomials(%v, %v) = %v, %v, %v", a, b, q, r, ok)
+		}
+	}
+}
+
 func TestProductsAreDivided(t *testing.T) {
 	for seed := range 50 {
 		for terms := 1; terms <= 13; terms++ {
