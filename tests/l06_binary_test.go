@@ -184,16 +184,24 @@ func TestBinaryOfLevelsOfAllLists(t *testing.T) {
 		check(l[1:])
 		check(append(l, 0))
 		check(append(l, l[len(l)-1]))
-		for i := range l {
-			for _, change := range []int{-1, 1, 256, 1 << 32, math.MinInt} {
-				l[i] += change
-				check(l)
-				l[i] -= change
-			}
-			check(slices.Delete(slices.Clone(l), i, i+1))
-			check(slices.Insert(slices.Clone(l), i, l[i]))
+		for _, near := range nearLists(l) {
+			check(near)
 		}
 	}
+}
+
+// nearLists returns the lists that come from a list by changing, leaving out or doubling one number.
+func nearLists(l []int) [][]int {
+	var all [][]int
+	for i := range l {
+		for _, change := range []int{-2, -1, 1, 2, 8, 256, 1 << 32, math.MinInt, math.MaxInt} {
+			near := slices.Clone(l)
+			near[i] += change
+			all = append(all, near)
+		}
+		all = append(all, slices.Delete(slices.Clone(l), i, i+1), slices.Insert(slices.Clone(l), i, l[i]))
+	}
+	return all
 }
 
 func TestBinaryOfLevelsRefuses(t *testing.T) {

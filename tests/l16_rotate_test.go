@@ -210,13 +210,10 @@ func TestBinaryOfWeightsOfAllLists(t *testing.T) {
 	}
 	for _, s := range allTrees() {
 		l := weightsByHand(s)
+		for _, near := range nearLists(l) {
+			check(near)
+		}
 		for i := range l {
-			for _, change := range []int{-2, -1, 1, 2, 8, 256, 1 << 32, math.MinInt, math.MaxInt} {
-				l[i] += change
-				check(l)
-				l[i] -= change
-			}
-			check(slices.Delete(slices.Clone(l), i, i+1))
 			// Beyond MaxSize there is no tree, also for weights that one would have.
 			check(slices.Insert(slices.Clone(l), i, 0))
 			check(slices.Insert(slices.Clone(l), i, l[i]+1))
@@ -229,17 +226,31 @@ func TestBinaryOfWeightsOfAllLists(t *testing.T) {
 	}
 }
 
+// refuseRotations checks that neither rotation succeeds.
+func refuseRotations(t *testing.T, s string, v int) {
+	t.Helper()
+	name := s[:min(len(s), 40)]
+	if got, ok := impl.RotateRight(s, v); got != "" || ok {
+		t.Errorf("RotateRight(%q, %d) = %q, %v", name, v, got, ok)
+	}
+	if got, ok := impl.RotateLeft(s, v); got != "" || ok {
+		t.Errorf("RotateLeft(%q, %d) = %q, %v", name, v, got, ok)
+	}
+}
+
+func refuseNode(t *testing.T, s string, v int) {
+	t.Helper()
+	if got, ok := impl.NodeAt(s, v); got != "" || ok {
+		t.Errorf("NodeAt(%q, %d) = %q, %v", s[:min(len(s), 40)], v, got, ok)
+	}
+}
+
 func TestTreesOfOneNodeAndOfNone(t *testing.T) {
 	for n, s := range []string{".", "(..)"} {
 		for _, v := range append(farNumbers(), -2, -1, 0, 1, 2) {
-			if got, ok := impl.RotateRight(s, v); got != "" || ok {
-				t.Errorf("RotateRight(%q, %d) = %q, %v", s, v, got, ok)
-			}
-			if got, ok := impl.RotateLeft(s, v); got != "" || ok {
-				t.Errorf("RotateLeft(%q, %d) = %q, %v", s, v, got, ok)
-			}
-			if got, ok := impl.NodeAt(s, v); ok != (n == 1 && v == 0) || ok && got != s || !ok && got != "" {
-				t.Errorf("NodeAt(%q, %d) = %q, %v", s, v, got, ok)
+			refuseRotations(t, s, v)
+			if n == 0 || v != 0 {
+				refuseNode(t, s, v)
 			}
 		}
 		if impl.CountRight(s) != 0 || len(impl.NeighboursOf(s)) != 0 {
@@ -253,6 +264,9 @@ func TestTreesOfOneNodeAndOfNone(t *testing.T) {
 			t.Errorf("BinaryOfWeights(%v) = %q, %v", weights, got, ok)
 		}
 	}
+	if s, ok := impl.NodeAt("(..)", 0); s != "(..)" || !ok {
+		t.Errorf("NodeAt(\"(..)\", 0) = %q, %v", s, ok)
+	}
 	if s, ok := impl.BinaryOfWeights(nil); s != "." || !ok {
 		t.Errorf("BinaryOfWeights of no weights = %q, %v", s, ok)
 	}
@@ -260,33 +274,18 @@ func TestTreesOfOneNodeAndOfNone(t *testing.T) {
 
 func TestRotationsRefuse(t *testing.T) {
 	for _, s := range noTrees() {
-		name := s[:min(len(s), 40)]
 		for _, v := range append(farNumbers(), -1, 0, 1, 4, 8) {
-			if got, ok := impl.RotateRight(s, v); got != "" || ok {
-				t.Errorf("RotateRight(%q, %d) = %q, %v", name, v, got, ok)
-			}
-			if got, ok := impl.RotateLeft(s, v); got != "" || ok {
-				t.Errorf("RotateLeft(%q, %d) = %q, %v", name, v, got, ok)
-			}
-			if got, ok := impl.NodeAt(s, v); got != "" || ok {
-				t.Errorf("NodeAt(%q, %d) = %q, %v", name, v, got, ok)
-			}
+			refuseRotations(t, s, v)
+			refuseNode(t, s, v)
 		}
 		if impl.CountRight(s) != -1 || len(impl.NeighboursOf(s)) != 0 || len(impl.WeightsOf(s)) != 0 {
-			t.Errorf("%q has %d rotations, the neighbours %q and the weights %v", name, impl.CountRight(s), impl.NeighboursOf(s), impl.WeightsOf(s))
+			t.Errorf("%q has %d rotations, the neighbours %q and the weights %v", s[:min(len(s), 40)], impl.CountRight(s), impl.NeighboursOf(s), impl.WeightsOf(s))
 		}
 	}
 	for _, s := range treesBySize(4)[4] {
 		for _, v := range append(farNumbers(), -4, -1, 4, 5, 8) {
-			if got, ok := impl.RotateRight(s, v); got != "" || ok {
-				t.Errorf("RotateRight(%q, %d) = %q, %v", s, v, got, ok)
-			}
-			if got, ok := impl.RotateLeft(s, v); got != "" || ok {
-				t.Errorf("RotateLeft(%q, %d) = %q, %v", s, v, got, ok)
-			}
-			if got, ok := impl.NodeAt(s, v); got != "" || ok {
-				t.Errorf("NodeAt(%q, %d) = %q, %v", s, v, got, ok)
-			}
+			refuseRotations(t, s, v)
+			refuseNode(t, s, v)
 		}
 	}
 }
