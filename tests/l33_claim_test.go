@@ -183,13 +183,10 @@ func TestClaimsOfOrdersOfGreatTrees(t *testing.T) {
 }
 
 func TestClaimsOfAllDistances(t *testing.T) {
-	for n, trees := range treesBySize(5) {
-		for i, a := range trees {
+	for _, trees := range treesBySize(5) {
+		for _, a := range trees {
 			ways := waysByHand(a)
-			for k, b := range trees {
-				if n == 5 && (i+k)%5 > 0 {
-					continue
-				}
+			for _, b := range trees {
 				c, ok := impl.ClaimOfDistance(a, b)
 				madeClaim(t, c, ok, impl.Claim{Kind: 2, First: a, Second: b, Trees: ways[b]}, "distance "+strings.Join(ways[b], " "))
 			}

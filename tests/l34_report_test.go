@@ -55,12 +55,9 @@ func TestTreeLinesOfAllTrees(t *testing.T) {
 func TestPairLinesOfAllPairs(t *testing.T) {
 	for n, trees := range treesBySize(5) {
 		l := tamariOf(n)
-		for i, a := range trees {
+		for _, a := range trees {
 			ways := waysByHand(a)
-			for k, b := range trees {
-				if n == 5 && (i+k)%7 > 0 {
-					continue
-				}
+			for _, b := range trees {
 				between := 0
 				for _, s := range trees {
 					if l.less(a, s) && l.less(s, b) {
@@ -133,10 +130,7 @@ func TestCountLines(t *testing.T) {
 
 func TestFriezeLinesOfAllTriangulations(t *testing.T) {
 	for n := 3; n <= 10; n++ {
-		for i, d := range triangulations(n) {
-			if n == 10 && i%10 > 0 {
-				continue
-			}
+		for _, d := range triangulations(n) {
 			// In row r stand the labels of the corners that are r places apart.
 			triangles := trianglesWith(n, d)
 			var rows []string
